@@ -156,7 +156,7 @@ func agreed(n, source int, held []words.Row) words.Held {
 	return words.Held{}
 }
 
-func TestTable(t *testing.T) { // P15.1: of each row its cell, if it is set, whatever its own table has, and whatever the cell
+func TestTable(t *testing.T) { // P15.1: of each row whether it is set, and its cell, whatever its own table has, and whatever the cell
 	odd := api.Cell{Age: -7, Offer: api.Said{At: 3, P: api.Payload{Kind: 9}}, View: api.View{Command: 99, Mode: 200}}
 	rows := []words.Row{
 		{Is: true, Cell: cellOf(1), Table: unasked(4, 1)},
@@ -166,8 +166,9 @@ func TestTable(t *testing.T) { // P15.1: of each row its cell, if it is set, wha
 		{Cell: cellOf(3), Table: unasked(4, 3)},
 		{Is: true, Cell: cellOf(1), Table: unasked(40, 5)},
 		{Is: true, Cell: odd, Table: []words.Held{}},
+		{Cell: odd},
 	}
-	want := []words.Held{has(cellOf(1)), {}, has(api.Cell{}), has(cellOf(2)), {}, has(cellOf(1)), has(odd)}
+	want := []words.Held{has(cellOf(1)), {}, has(api.Cell{}), has(cellOf(2)), {Cell: cellOf(3)}, has(cellOf(1)), has(odd), {Cell: odd}}
 	wantHeld(t, "all", agrees.Table(rows), want)
 	for from := range rows {
 		for to := from; to <= len(rows); to++ {
@@ -183,11 +184,40 @@ func TestTablesOfEachLength(t *testing.T) { // P15.1: as many entries as there a
 		rows, want := make([]words.Row, many), make([]words.Held, many)
 		for i := range rows {
 			rows[i] = words.Row{Is: (i+many)%3 > 0, Cell: cellOf(i), Table: unasked(i, i)}
-			if rows[i].Is {
-				want[i] = has(cellOf(i))
-			}
+			want[i] = words.Held{Is: (i+many)%3 > 0, Cell: cellOf(i)}
 		}
 		wantHeld(t, what("rows", many), agrees.Table(rows), want)
+	}
+}
+
+func TestTableOfRowsNotSet(t *testing.T) { // P15.1: not set, and the cell all the same: with something in one part alone, in all, or in none; beside rows that are set, and alone
+	cells := append(others(api.Cell{}), others(cellOf(5))...)
+	cells = append(cells, api.Cell{}, cellOf(5), api.Cell{View: api.View{Command: -1}})
+	rows, want := []words.Row{}, []words.Held{}
+	for i, c := range cells {
+		for _, table := range [][]words.Held{nil, {}, {{}}, {has(c)}, {{Cell: c}}, unasked(4, i)} {
+			row := words.Row{Cell: c, Table: table}
+			wantHeld(t, what("alone", i), agrees.Table([]words.Row{row}), []words.Held{{Cell: c}})
+			rows, want = append(rows, row), append(want, words.Held{Cell: c})
+		}
+		rows, want = append(rows, words.Row{Is: true, Cell: c}), append(want, has(c))
+	}
+	wantHeld(t, "all", agrees.Table(rows), want)
+}
+
+func TestTablesOfRowsNotSetSayNothing(t *testing.T) { // P15.1, P15.2: what is told of a row that is not set is agreed of nobody, however many tell it
+	for n := api.MinNodes; n <= api.MaxNodes; n++ {
+		for unset := range n {
+			rows, want := make([]words.Row, n), make([]words.Held, n)
+			for i := range rows {
+				rows[i] = words.Row{Is: i != unset, Cell: cellOf(i)}
+				if i != unset {
+					want[i] = has(cellOf(i))
+				}
+			}
+			held := slices.Repeat([]words.Row{{Is: true, Table: agrees.Table(rows)}}, n)
+			wantHeld(t, what("nodes, unset", n, unset), agrees.Agree(n, held), want)
+		}
 	}
 }
 
@@ -555,9 +585,7 @@ func TestWhateverIsHeld(t *testing.T) { // P15.1, P15.2: as the document words i
 			}
 		}
 		for node, row := range held {
-			if row.Is {
-				table[node] = has(row.Cell)
-			}
+			table[node].Is, table[node].Cell = row.Is, row.Cell
 		}
 		wantHeld(t, what("vector", i), agrees.Agree(n, held), vector)
 		wantHeld(t, what("table", i), agrees.Table(held), table)
